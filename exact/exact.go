@@ -47,6 +47,12 @@ func Differences(points [][]int) [][]int {
 	return rows
 }
 
+// InOrder sorts lists, in their own memory, and keeps each once.
+func InOrder(lists [][]int) [][]int {
+	slices.SortFunc(lists, slices.Compare[[]int])
+	return slices.CompactFunc(lists, slices.Equal[[]int])
+}
+
 func mapped(l []int, by func(int) int) []int {
 	out := make([]int, len(l))
 	for i, v := range l {

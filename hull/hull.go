@@ -5,6 +5,7 @@ import (
 	"cmp"
 
 	"facet/api"
+	"facet/check"
 	"facet/exact"
 )
 
@@ -17,22 +18,12 @@ func Check(p api.Polytope) api.Errno {
 		return api.ErrCount
 	}
 	for _, x := range p.Points {
-		if e := checkPoint(p.Dim, x); e != api.OK {
+		if e := check.List(x, p.Dim, api.MaxCoord); e != api.OK {
 			return e
 		}
 	}
 	if exact.Rank(exact.Differences(p.Points), p.Dim) < p.Dim {
 		return api.ErrFlat
-	}
-	return api.OK
-}
-
-func checkPoint(dim int, x []int) api.Errno {
-	if len(x) != dim {
-		return api.ErrForm
-	}
-	if exact.AnyBeyond(x, api.MaxCoord) {
-		return api.ErrValue
 	}
 	return api.OK
 }
@@ -59,7 +50,7 @@ func Where(p api.Polytope, x []int) (int, api.Errno) {
 	if e := Check(p); e != api.OK {
 		return 0, e
 	}
-	if e := checkPoint(p.Dim, x); e != api.OK {
+	if e := check.List(x, p.Dim, api.MaxCoord); e != api.OK {
 		return 0, e
 	}
 	place := -1

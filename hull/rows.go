@@ -3,6 +3,7 @@ package hull
 import (
 	"slices"
 
+	"facet/choose"
 	"facet/exact"
 )
 
@@ -12,41 +13,19 @@ func distinct(points [][]int) [][]int {
 	for _, x := range points {
 		out = append(out, slices.Clone(x))
 	}
-	return inOrder(out)
-}
-
-func inOrder(lists [][]int) [][]int {
-	slices.SortFunc(lists, slices.Compare[[]int])
-	return slices.CompactFunc(lists, slices.Equal[[]int])
+	return exact.InOrder(out)
 }
 
 // rowsAround are the rows of points that don't lie flat, in order: each side has
 // points enough to tell its row, so that it is found by one choice of them at least.
 func rowsAround(dim int, points [][]int) [][]int {
 	var rows [][]int
-	eachChoice(points, dim, func(chosen [][]int) {
-		if row, ok := rowThrough(chosen, points); ok {
+	for chosen := range choose.Of(len(points), dim) {
+		if row, ok := rowThrough(choose.Picked(points, chosen), points); ok {
 			rows = append(rows, row)
 		}
-	})
-	return inOrder(rows)
-}
-
-// eachChoice shows look all choices of so many points; look doesn't keep the list.
-func eachChoice(points [][]int, many int, look func(chosen [][]int)) {
-	chosen := make([][]int, many)
-	var fill func(at, from int)
-	fill = func(at, from int) {
-		if at == many {
-			look(chosen)
-			return
-		}
-		for i := range len(points) - from {
-			chosen[at] = points[from+i]
-			fill(at+1, from+i+1)
-		}
 	}
-	fill(0, 0)
+	return exact.InOrder(rows)
 }
 
 // rowThrough is the row that the chosen points meet, if there is one alone and

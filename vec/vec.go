@@ -3,6 +3,7 @@ package vec
 
 import (
 	"facet/api"
+	"facet/check"
 	"facet/exact"
 )
 
@@ -20,13 +21,10 @@ func Check(m [][]int) api.Errno {
 }
 
 func checkRow(row []int, width int) api.Errno {
-	if len(row) != width || width < 1 || width > api.MaxDim+1 {
+	if width < 1 || width > api.MaxDim+1 {
 		return api.ErrForm
 	}
-	if exact.AnyBeyond(row, api.MaxValue) {
-		return api.ErrValue
-	}
-	return api.OK
+	return check.List(row, width, api.MaxValue)
 }
 
 // Primitive is a list, divided by what all have in common.

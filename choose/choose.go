@@ -1,0 +1,37 @@
+// Package choose goes through all choices of some things.
+package choose
+
+import (
+	"iter"
+	"slices"
+)
+
+// Of goes through all choices of so many of the numbers 0 to n - 1: rising lists, in order, each in fresh memory.
+func Of(n, many int) iter.Seq[[]int] {
+	return func(yield func([]int) bool) {
+		chosen := make([]int, many)
+		var fill func(at, from int) bool
+		fill = func(at, from int) bool {
+			if at == many {
+				return yield(slices.Clone(chosen))
+			}
+			for i := range n - from {
+				chosen[at] = from + i
+				if !fill(at+1, from+i+1) {
+					return false
+				}
+			}
+			return true
+		}
+		fill(0, 0)
+	}
+}
+
+// Picked are the things of a list that have the chosen numbers.
+func Picked[T any](list []T, chosen []int) []T {
+	var out []T
+	for _, i := range chosen {
+		out = append(out, list[i])
+	}
+	return out
+}

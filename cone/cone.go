@@ -1,0 +1,67 @@
+// Package cone finds out how a goal is a sum of multiples of rows, from 0 on.
+package cone
+
+import (
+	"iter"
+	"slices"
+
+	"facet/api"
+	"facet/choose"
+	"facet/exact"
+)
+
+// Ways goes through the ways in which so much of some rows, added, is Under times
+// the goal: each by rows that don't hang on each other, above 0 of each. If there
+// is any way at all, there is one of these (Caratheodory); and where a price of
+// each row makes one the least, the least is among these.
+//
+// What a row has behind as many numbers as the goal has (such as its b) says nothing.
+func Ways(rows [][]int, goal []int) iter.Seq[api.Taken] {
+	return func(yield func(api.Taken) bool) {
+		for many := range min(len(goal), len(rows)) + 1 {
+			for chosen := range choose.Of(len(rows), many) {
+				way, ok := wayBy(rows, chosen, goal)
+				if ok && !yield(way) {
+					return
+				}
+			}
+		}
+	}
+}
+
+// Reaches: is the goal such a sum?
+func Reaches(rows [][]int, goal []int) bool {
+	for range Ways(rows, goal) {
+		return true
+	}
+	return false
+}
+
+// Refuted is how so much of some rows a, b, added, is 0 everywhere in a and below 0
+// in b; false, if it can't be: then there is an x for which all rows hold (Farkas).
+func Refuted(rows [][]int, dim int) (api.Taken, bool) {
+	goal := make([]int, dim+1)
+	goal[dim] = -1
+	for way := range Ways(rows, goal) {
+		return api.Taken{Points: way.Points, Much: exact.Primitive(way.Much), Under: 1}, true
+	}
+	return api.Taken{}, false
+}
+
+// wayBy is the one way by just the chosen rows, all of them. Number by number, what
+// is taken of them and, behind it, of the goal hangs together as a Normal does.
+func wayBy(rows [][]int, chosen, goal []int) (api.Taken, bool) {
+	across := make([][]int, len(goal))
+	for i, v := range goal {
+		for _, r := range chosen {
+			across[i] = append(across[i], rows[r][i])
+		}
+		across[i] = append(across[i], -v)
+	}
+	taken, ok := exact.Normal(across, len(chosen)+1)
+	if !ok || slices.ContainsFunc(taken, func(v int) bool { return v <= 0 }) {
+		return api.Taken{}, false
+	}
+	last := len(chosen)
+	return api.Taken{Points: chosen, Much: taken[:last:last], Under: taken[last]}, true
+}
