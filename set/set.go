@@ -10,10 +10,13 @@ type Set uint64
 func Of(list []int) Set {
 	var s Set
 	for _, v := range list {
-		s |= 1 << v
+		s |= One(v)
 	}
 	return s
 }
+
+// One is the set of one number, which is 0 to 63.
+func One(v int) Set { return 1 << v }
 
 // List has what is in the set, rising, in fresh memory.
 func (s Set) List() []int {

@@ -10,7 +10,7 @@ import (
 func sidesMet(simplex set.Set, ahead []set.Set) []set.Set {
 	var met []set.Set
 	for _, v := range simplex.List() {
-		side := simplex &^ set.Of([]int{v})
+		side := simplex &^ set.One(v)
 		if slices.ContainsFunc(ahead, side.In) {
 			met = append(met, side)
 		}

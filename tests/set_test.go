@@ -14,6 +14,11 @@ func TestSet(t *testing.T) {
 			t.Errorf("set.Of(%v): %v, %d of them", list, got, s.Len())
 		}
 	}
+	for _, v := range []int{0, 1, 40, 63} {
+		if got := set.One(v).List(); !slices.Equal(got, []int{v}) {
+			t.Errorf("set.One(%d): %v", v, got)
+		}
+	}
 	if got := set.Of([]int{7, 2, 7}).List(); !slices.Equal(got, []int{2, 7}) {
 		t.Errorf("a number that is there twice, and falling ones: %v", got)
 	}
