@@ -29,7 +29,7 @@ func Of(n, many int) iter.Seq[[]int] {
 
 // Picked are the things of a list that have the chosen numbers.
 func Picked[T any](list []T, chosen []int) []T {
-	var out []T
+	out := make([]T, 0, len(chosen))
 	for _, i := range chosen {
 		out = append(out, list[i])
 	}

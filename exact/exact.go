@@ -20,6 +20,15 @@ func Product(a, x []int) int {
 	return sum
 }
 
+// Sum is a fresh list: two lists of one length, added number by number.
+func Sum(a, x []int) []int {
+	sum := slices.Clone(a)
+	for i := range sum {
+		sum[i] += x[i]
+	}
+	return sum
+}
+
 // Primitive is a fresh list: l, divided by the greatest number that divides all of it.
 func Primitive(l []int) []int {
 	divisor := commonDivisor(l)
@@ -36,7 +45,7 @@ func Negated(l []int) []int {
 
 // Differences are what the points behind the first one have more than it.
 func Differences(points [][]int) [][]int {
-	var rows [][]int
+	rows := make([][]int, 0, len(points)-1)
 	for _, x := range points[1:] {
 		row := slices.Clone(x)
 		for i := range row {

@@ -28,23 +28,36 @@ func Det(m [][]int) int {
 // Normal is the one direction whose products with all rows are 0: primitive,
 // its first number that is not 0 above 0. False: there is none, or not one alone.
 func Normal(m [][]int, width int) ([]int, bool) {
-	r := reduce(m, width)
-	if len(r.pivots) != width-1 {
+	directions := Kernel(m, width)
+	if len(directions) != 1 {
 		return nil, false
 	}
-	free := r.freeColumn()
-	normal := make([]int, width)
-	normal[free] = r.value
-	for i, column := range r.pivots {
-		normal[column] = -r.rows[i][free]
+	return upright(directions[0]), true
+}
+
+// Kernel has directions that don't hang on each other, primitive, of which all those
+// are made whose products with all rows are 0.
+func Kernel(m [][]int, width int) [][]int {
+	r := reduce(m, width)
+	var out [][]int
+	for free := range width {
+		if slices.Contains(r.pivots, free) {
+			continue
+		}
+		direction := make([]int, width)
+		direction[free] = r.value
+		for i, column := range r.pivots {
+			direction[column] = -r.rows[i][free]
+		}
+		out = append(out, Primitive(direction))
 	}
-	return upright(Primitive(normal)), true
+	return out
 }
 
 // reduce follows Bareiss, above the pivots, too: each number that it meets is a
 // minor of m, so all divisions come out even and nothing grows further.
 func reduce(m [][]int, width int) reduced {
-	r := reduced{value: 1, sign: 1}
+	r := reduced{rows: make([][]int, 0, len(m)), pivots: make([]int, 0, width), value: 1, sign: 1}
 	for _, row := range m {
 		r.rows = append(r.rows, slices.Clone(row))
 	}
@@ -79,15 +92,6 @@ func clearColumn(row, pivot []int, column, value int) {
 	for j := range row {
 		row[j] = (keep*row[j] - take*pivot[j]) / value
 	}
-}
-
-// freeColumn is the first column without a pivot.
-func (r *reduced) freeColumn() int {
-	free := 0
-	for free < len(r.pivots) && r.pivots[free] == free {
-		free++
-	}
-	return free
 }
 
 func upright(l []int) []int {

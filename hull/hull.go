@@ -2,11 +2,10 @@
 package hull
 
 import (
-	"cmp"
-
 	"facet/api"
 	"facet/check"
 	"facet/exact"
+	"facet/wrap"
 )
 
 // Check says whether a polytope may be.
@@ -33,7 +32,7 @@ func Rows(p api.Polytope) ([][]int, api.Errno) {
 	if e := Check(p); e != api.OK {
 		return nil, e
 	}
-	return rowsAround(p.Dim, distinct(p.Points)), api.OK
+	return wrap.Rows(p.Points), api.OK
 }
 
 // Corners are the corners of a polytope, in order.
@@ -41,8 +40,7 @@ func Corners(p api.Polytope) ([][]int, api.Errno) {
 	if e := Check(p); e != api.OK {
 		return nil, e
 	}
-	points := distinct(p.Points)
-	return cornersOf(points, rowsAround(p.Dim, points)), api.OK
+	return wrap.Corners(p.Points), api.OK
 }
 
 // Where: is a point outside (1), on a row (0), or inside (-1)?
@@ -54,15 +52,10 @@ func Where(p api.Polytope, x []int) (int, api.Errno) {
 		return 0, e
 	}
 	place := -1
-	for _, row := range rowsAround(p.Dim, distinct(p.Points)) {
-		place = max(place, against(row, x))
+	for _, row := range wrap.Rows(p.Points) {
+		place = max(place, wrap.Against(row, x))
 	}
 	return place, api.OK
-}
-
-// against: does a point lie beyond a row (1), meet it (0), or hold with room to spare (-1)?
-func against(row, x []int) int {
-	return cmp.Compare(exact.Product(row[:len(x)], x), row[len(x)])
 }
 
 // Cyclic is the polytope of points (t, t^2, ..): t from -(n / 2) on.

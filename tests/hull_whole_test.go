@@ -56,8 +56,23 @@ func between(chosen [][]int, x []int) bool {
 	return much != nil && !slices.ContainsFunc(much, func(q *big.Rat) bool { return q.Sign() < 0 })
 }
 
+// isBeside: has x in one direction more than all points, or less? (It saves going through all of them.)
+func isBeside(points [][]int, x []int) bool {
+	for i := range x {
+		more := func(y []int) bool { return y[i] >= x[i] }
+		less := func(y []int) bool { return y[i] <= x[i] }
+		if !slices.ContainsFunc(points, more) || !slices.ContainsFunc(points, less) {
+			return true
+		}
+	}
+	return false
+}
+
 // isBetween goes by Caratheodory: what lies between points lies between few of them, in one way.
 func isBetween(points [][]int, x []int) bool {
+	if isBeside(points, x) {
+		return false
+	}
 	for many := 1; many <= min(len(points), len(x)+1); many++ {
 		for _, c := range choices(len(points), many) {
 			var chosen [][]int
