@@ -31,6 +31,9 @@ func Ways(rows [][]int, goal []int) iter.Seq[api.Taken] {
 
 // Reaches: is the goal such a sum?
 func Reaches(rows [][]int, goal []int) bool {
+	if taken, ok := exact.Normal(acrossOf(rows, goal), len(rows)+1); ok { // one alone may be it: no need to look further
+		return taken[len(rows)] > 0 && slices.Min(taken) >= 0
+	}
 	for range Ways(rows, goal) {
 		return true
 	}
@@ -48,20 +51,25 @@ func Refuted(rows [][]int, dim int) (api.Taken, bool) {
 	return api.Taken{}, false
 }
 
-// wayBy is the one way by just the chosen rows, all of them. Number by number, what
-// is taken of them and, behind it, of the goal hangs together as a Normal does.
+// wayBy is the one way by just the chosen rows, all of them.
 func wayBy(rows [][]int, chosen, goal []int) (api.Taken, bool) {
+	last := len(chosen)
+	taken, ok := exact.Normal(acrossOf(choose.Picked(rows, chosen), goal), last+1)
+	if !ok || slices.Min(taken) <= 0 {
+		return api.Taken{}, false
+	}
+	return api.Taken{Points: chosen, Much: taken[:last:last], Under: taken[last]}, true
+}
+
+// acrossOf has, number by number, what the rows and, behind them, the goal have there,
+// its sign turned: what is taken of them all hangs together as a Normal does.
+func acrossOf(rows [][]int, goal []int) [][]int {
 	across := make([][]int, len(goal))
 	for i, v := range goal {
-		for _, r := range chosen {
-			across[i] = append(across[i], rows[r][i])
+		for _, row := range rows {
+			across[i] = append(across[i], row[i])
 		}
 		across[i] = append(across[i], -v)
 	}
-	taken, ok := exact.Normal(across, len(chosen)+1)
-	if !ok || slices.ContainsFunc(taken, func(v int) bool { return v <= 0 }) {
-		return api.Taken{}, false
-	}
-	last := len(chosen)
-	return api.Taken{Points: chosen, Much: taken[:last:last], Under: taken[last]}, true
+	return across
 }

@@ -38,6 +38,47 @@ func TestChooseOfLeftEarly(t *testing.T) {
 	}
 }
 
+// ordersOf 0 to n - 1, not in order.
+func ordersOf(n int) [][]int {
+	if n == 0 {
+		return [][]int{{}}
+	}
+	var out [][]int
+	for _, order := range ordersOf(n - 1) {
+		for at := range n {
+			out = append(out, slices.Insert(slices.Clone(order), at, n-1))
+		}
+	}
+	return out
+}
+
+func TestChooseOrders(t *testing.T) {
+	for n := range 7 {
+		got, want := slices.Collect(choose.Orders(n)), ordersOf(n)
+		slices.SortFunc(want, slices.Compare[[]int])
+		if !alike(got, want) || !apart(got...) {
+			t.Errorf("choose.Orders(%d) = %v, want %v", n, got, want)
+		}
+	}
+}
+
+// A loop over orders may be left at any of them.
+func TestChooseOrdersLeftEarly(t *testing.T) {
+	all := slices.Collect(choose.Orders(4))
+	for last := range all {
+		var seen [][]int
+		for order := range choose.Orders(4) {
+			seen = append(seen, order)
+			if len(seen) == last+1 {
+				break
+			}
+		}
+		if !alike(seen, all[:last+1]) {
+			t.Errorf("seen: %v, want %v", seen, all[:last+1])
+		}
+	}
+}
+
 func TestChoosePicked(t *testing.T) {
 	if got := choose.Picked([]string{"a", "b", "c"}, []int{2, 0}); !slices.Equal(got, []string{"c", "a"}) {
 		t.Errorf("Picked = %v", got)
