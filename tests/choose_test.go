@@ -105,3 +105,22 @@ func TestCheckList(t *testing.T) {
 		}
 	}
 }
+
+func TestCheckWithin(t *testing.T) {
+	for _, c := range []struct {
+		l    []int
+		want api.Errno
+	}{
+		{nil, api.ErrForm},
+		{[]int{1}, api.ErrForm},
+		{[]int{9, 9, 9}, api.ErrForm},
+		{[]int{1, 3}, api.OK},
+		{[]int{3, 4}, api.ErrValue},
+		{[]int{0, 3}, api.ErrValue},
+		{[]int{2, -2}, api.ErrValue},
+	} {
+		if got := check.Within(c.l, 2, 1, 3); got != c.want {
+			t.Errorf("check.Within(%v, 2, 1, 3) = %d, want %d", c.l, got, c.want)
+		}
+	}
+}
