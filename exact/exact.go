@@ -20,6 +20,15 @@ func Product(a, x []int) int {
 	return sum
 }
 
+// Total is what all numbers of a list come to.
+func Total(l []int) int {
+	total := 0
+	for _, v := range l {
+		total += v
+	}
+	return total
+}
+
 // Sum is a fresh list: two lists of one length, added number by number.
 func Sum(a, x []int) []int {
 	sum := slices.Clone(a)

@@ -35,6 +35,15 @@ func TestExactProduct(t *testing.T) {
 	}
 }
 
+func TestExactTotal(t *testing.T) {
+	if got := exact.Total([]int{3, -5, 1, 0}); got != -1 {
+		t.Errorf("Total = %d, want -1", got)
+	}
+	if got := exact.Total(nil); got != 0 {
+		t.Errorf("Total of nothing = %d", got)
+	}
+}
+
 func TestExactPrimitiveAndNegated(t *testing.T) {
 	l := []int{-6, 0, 9}
 	divided, turned := exact.Primitive(l), exact.Negated(l)
