@@ -24,7 +24,8 @@ type kind struct {
 // ranks and their numbers are.
 type square [api.MaxRank][api.MaxRank]int
 
-// kinds has the squares of all kinds that there are.
+// kinds has the squares of all kinds that there are, ready from the start. No answer hangs
+// on it: what stands there is what made says.
 var kinds = findKinds()
 
 func findKinds() map[kind]square {
@@ -55,6 +56,13 @@ func ranks(letter rune) (least, most int) {
 	return 4, 4
 }
 
+// isKind: is there such a kind? Its letter is one of those that kinds have.
+func isKind(of kind) bool {
+	least, most := ranks(of.letter)
+	return of.rank >= least && of.rank <= most
+}
+
+// made is the square of a kind that there is.
 func made(of kind) square {
 	var s square
 	last := of.rank - 1
@@ -98,17 +106,25 @@ func read(piece string) (kind, api.Errno) {
 	if signs < 2 {
 		return kind{}, api.ErrShort
 	}
-	if _, ok := kinds[of]; !ok {
+	if !isKind(of) {
 		return kind{}, api.ErrKind
 	}
 	return of, api.OK
+}
+
+// squareOf takes a square that is ready, and makes one that is not.
+func squareOf(of kind) square {
+	if s, isReady := kinds[of]; isReady {
+		return s
+	}
+	return made(of)
 }
 
 // joined has the pieces' squares one behind the other.
 func joined(pieces []kind, rank int) [][]int {
 	var c [][]int
 	for _, piece := range pieces {
-		s, ahead := kinds[piece], len(c)
+		s, ahead := squareOf(piece), len(c)
 		for i := range piece.rank {
 			row := make([]int, rank)
 			copy(row[ahead:], s[i][:piece.rank])
@@ -124,7 +140,7 @@ func kindOf(c [][]int, part []int) kind {
 	for order := range choose.Orders(len(part)) {
 		s := among(c, choose.Picked(part, order))
 		for _, letter := range letters {
-			if of := (kind{letter, len(part)}); kinds[of] == s {
+			if of := (kind{letter, len(part)}); isKind(of) && made(of) == s {
 				return of
 			}
 		}
